@@ -1,6 +1,9 @@
 package tests
 
 import (
+	"cmp"
+	"fmt"
+	"reflect"
 	"slices"
 	"testing"
 
@@ -95,4 +98,106 @@ func TestReadIsNewEachTime(t *testing.T) {
 	two, _ := impl.TreeRead(text)
 	scribble(one)
 	wantTree(t, "the second", two, fullTree())
+}
+
+// span is the memory of one list, its spare room included.
+type span struct {
+	from uintptr
+	to   uintptr
+}
+
+// spansOf tells the memory of all lists of a value, one within the other.
+func spansOf(v reflect.Value) []span {
+	var list []span
+	switch v.Kind() {
+	case reflect.Slice:
+		v = v.Slice3(0, v.Cap(), v.Cap())
+		if v.Len() > 0 {
+			list = append(list, span{v.Pointer(), v.Pointer() + uintptr(v.Len())*v.Type().Elem().Size()})
+		}
+		for i := range v.Len() {
+			list = append(list, spansOf(v.Index(i))...)
+		}
+	case reflect.Struct:
+		for i := range v.NumField() {
+			list = append(list, spansOf(v.Field(i))...)
+		}
+	}
+	return list
+}
+
+// wantNoShare checks that no two lists of all these values share memory.
+func wantNoShare(t *testing.T, what string, values ...any) {
+	t.Helper()
+	var list []span
+	for _, v := range values {
+		list = append(list, spansOf(reflect.ValueOf(v))...)
+	}
+	slices.SortFunc(list, func(a, b span) int { return cmp.Compare(a.from, b.from) })
+	for i := 1; i < len(list); i++ {
+		if list[i].from < list[i-1].to {
+			t.Errorf("%s: two lists share memory", what)
+		}
+	}
+}
+
+// snapshot tells all of a value; an empty list is told as none is.
+func snapshot(v any) string {
+	return told(reflect.ValueOf(v), false)
+}
+
+// short is how a value begins, for what a test tells.
+func short(v any) string {
+	return fmt.Sprintf("%.300s", snapshot(v))
+}
+
+// told tells a value, if asked for with what is in the spare room of its lists.
+func told(v reflect.Value, room bool) string {
+	switch v.Kind() {
+	case reflect.Slice:
+		if room {
+			v = v.Slice3(0, v.Cap(), v.Cap())
+		}
+		text := "["
+		for i := range v.Len() {
+			text += told(v.Index(i), room) + ","
+		}
+		return text + "]"
+	case reflect.Struct:
+		text := "{"
+		for i := range v.NumField() {
+			text += told(v.Field(i), room) + ","
+		}
+		return text + "}"
+	}
+	return fmt.Sprintf("%#v", v)
+}
+
+// roomy is a list with spare room behind it, in which something stands.
+func roomy[T any](list []T, guard T) []T {
+	return append(slices.Clone(list), guard, guard, guard)[:len(list)]
+}
+
+// wantApart checks that a call leaves its arguments, and the room behind them, as they are, that its answers share nothing with them, nor with each other, and that a second call answers the same.
+func wantApart(t *testing.T, what string, args []any, call func() []any) {
+	t.Helper()
+	full := func() string {
+		text := ""
+		for _, a := range args {
+			text += told(reflect.ValueOf(a), true)
+		}
+		return text
+	}
+	was := full()
+	answers := call()
+	if full() != was {
+		t.Errorf("%s: an argument, or the room behind it, is another one", what)
+	}
+	wantNoShare(t, what, append(slices.Clone(args), answers...)...)
+	again := call()
+	for i := range answers {
+		if !same(answers[i], again[i]) {
+			t.Errorf("%s: answer %d is another one the second time", what, i)
+		}
+	}
 }
