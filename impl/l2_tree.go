@@ -172,14 +172,9 @@ func TreeRead(text string) ([]Entry, bool) {
 
 // Sum is the first 16 figures of the SHA-256 of a text.
 func Sum(text string) string {
-	hash := sumWords(text)
-	var figures strings.Builder
-	for _, word := range hash[:2] {
-		for shift := 28; shift >= 0; shift -= 4 {
-			figures.WriteByte(hexFigures[word>>shift&15])
-		}
-	}
-	return figures.String()
+	sum := newSummer()
+	sum.write(text)
+	return sum.figures()
 }
 
 // node is what stands at a path; its type is its kind.
@@ -277,11 +272,14 @@ func linkText(n node) (string, bool) {
 	return link.text, isLink
 }
 
+func isDir(n node) bool {
+	_, is := n.(dirNode)
+	return is
+}
+
 // sameDir says whether both are dirs, and the same.
 func sameDir(a node, b node) bool {
-	one, isDir := a.(dirNode)
-	two, isOther := b.(dirNode)
-	return isDir && isOther && one == two
+	return isDir(a) && a == b
 }
 
 // readEntry reads one entry at the beginning of a text, and is what stands behind it. Whether the entry is ok is left to TreeOk.
@@ -410,8 +408,7 @@ func (m *tree) hasPlace(path string) bool {
 		return true
 	}
 	n, _ := m.get(up)
-	_, isDir := n.(dirNode)
-	return isDir
+	return isDir(n)
 }
 
 func (m *tree) mayMove(from string, to string) bool {
@@ -426,6 +423,16 @@ func (m *tree) putWithDirs(other tree, path string) {
 		n, _ := other.get(at)
 		m.put(at, n)
 	}
+}
+
+// onlyDirsIn says whether all that is in a path, or at it, is dirs.
+func (m *tree) onlyDirsIn(path string) bool {
+	for at, n := range m.all() {
+		if PathIn(path, at) && !isDir(n) {
+			return false
+		}
+	}
+	return true
 }
 
 const hexFigures = "0123456789abcdef"
@@ -447,25 +454,55 @@ var sumRounds = [64]uint32{
 	0x748f82ee, 0x78a5636f, 0x84c87814, 0x8cc70208, 0x90befffa, 0xa4506ceb, 0xbef9a3f7, 0xc67178f2,
 }
 
-// sumWords is the SHA-256 of a text.
-func sumWords(text string) [8]uint32 {
-	hash := sumStart
-	padded := sumPadded(text)
-	for start := 0; start < len(padded); start += 64 {
-		hash = sumBlock(hash, padded[start:start+64])
-	}
-	return hash
+// sumBytes is how many bytes a block has.
+const sumBytes = 64
+
+// summer sums up what is written to it, piece by piece; it keeps no more than what makes no whole block yet.
+type summer struct {
+	hash [8]uint32
+	rest []byte
+	size int
 }
 
-// sumPadded is a text with a bit that is set, zeros, and how many bits it has, in whole blocks.
-func sumPadded(text string) []byte {
-	padded := append([]byte(text), 0x80)
-	for len(padded)%64 != 56 {
+func newSummer() *summer {
+	return &summer{hash: sumStart}
+}
+
+func (s *summer) write(text string) {
+	s.size += len(text)
+	s.hash, s.rest = sumBlocks(s.hash, append(s.rest, text...))
+}
+
+// figures is the first 16 figures of the sum of all that was written.
+func (s *summer) figures() string {
+	hash, _ := sumBlocks(s.hash, sumPadded(s.rest, s.size))
+	var figures strings.Builder
+	for _, word := range hash[:2] {
+		for shift := 28; shift >= 0; shift -= 4 {
+			figures.WriteByte(hexFigures[word>>shift&15])
+		}
+	}
+	return figures.String()
+}
+
+// sumBlocks is a hash with all whole blocks of a text more, and what is left of it.
+func sumBlocks(hash [8]uint32, text []byte) ([8]uint32, []byte) {
+	for len(text) >= sumBytes {
+		hash = sumBlock(hash, text[:sumBytes])
+		text = text[sumBytes:]
+	}
+	return hash, text
+}
+
+// sumPadded is the end of a text, with a bit that is set, zeros, and how many bits the whole text has, in whole blocks.
+func sumPadded(rest []byte, size int) []byte {
+	padded := append(slices.Clone(rest), 0x80)
+	for len(padded)%sumBytes != sumBytes-8 {
 		padded = append(padded, 0)
 	}
-	size := uint64(len(text)) * 8
+	count := uint64(size) * 8
 	for shift := 56; shift >= 0; shift -= 8 {
-		padded = append(padded, byte(size>>shift))
+		padded = append(padded, byte(count>>shift))
 	}
 	return padded
 }

@@ -896,15 +896,20 @@ func TestRecipeReadWrong(t *testing.T) {
 	}
 }
 
+// roomyRecipe is a recipe with spare room behind each of its lists.
+func roomyRecipe(r impl.Recipe) impl.Recipe {
+	r.Lets = roomy(r.Lets, impl.Let{Name: "guard"})
+	r.Builds = roomy(r.Builds, impl.Need{Name: "guard"})
+	r.Runs = roomy(r.Runs, impl.Need{Name: "guard"})
+	r.Sources = roomy(r.Sources, impl.Source{Name: "guard"})
+	r.Pieces = roomy(r.Pieces, impl.Piece{Name: "guard"})
+	r.Steps = roomy(r.Steps, "guard")
+	return r
+}
+
 func TestRecipesShareNoMemory(t *testing.T) {
-	guard := impl.Recipe{Name: "guard"}
 	for _, r := range append(someRecipes()[:20], with(fullRecipe(), func(r *impl.Recipe) { r.Steps = []string{"${z}"} }), with(fullRecipe(), func(r *impl.Recipe) { r.Runs = append(r.Runs[:5:5], impl.Need{Name: r.Name}) })) {
-		r.Lets = roomy(r.Lets, impl.Let{Name: guard.Name})
-		r.Builds = roomy(r.Builds, impl.Need{Name: guard.Name})
-		r.Runs = roomy(r.Runs, impl.Need{Name: guard.Name})
-		r.Sources = roomy(r.Sources, impl.Source{Name: guard.Name})
-		r.Pieces = roomy(r.Pieces, impl.Piece{Name: guard.Name})
-		r.Steps = roomy(r.Steps, guard.Name)
+		r = roomyRecipe(r)
 		wantApart(t, "recipes", []any{r}, func() []any {
 			text, code := impl.Expand(r.Lets, "${let0}")
 			back, ok := impl.RecipeGet(impl.RecipePut(r))
